@@ -12,14 +12,14 @@ type call struct {
 // body goes through the moves, and tells what is returned.
 func (c *call) body() api.Val {
 	at := 0
-	for at < len(c.f.moves) && !c.ended() {
+	for at < len(c.f.moves) && !c.Ended() {
 		m := c.f.moves[at]
 		if m.does == doReturn {
 			return c.returned(m.expr)
 		}
 		at = c.follow(m, at+1)
 	}
-	c.require(c.f.mayEnd())
+	c.Require(c.f.mayEnd())
 	return api.Val{}
 }
 
@@ -35,7 +35,7 @@ func (c *call) follow(m move, next int) int {
 	leads := false
 	switch m.does {
 	case doBegin:
-		c.count(1)
+		c.Count(1)
 	case doTell:
 		c.tell(m.expr)
 	case doMake:
@@ -61,7 +61,7 @@ func (c *call) remake(m move) {
 	if m.expr.Op != api.ENone {
 		v = converted(m.t, c.tell(m.expr))
 	}
-	if !c.count(elements(m.t)) {
+	if !c.Count(elements(m.t)) {
 		return
 	}
 	place := api.Val{Obj: c.first + m.local}

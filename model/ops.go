@@ -83,9 +83,9 @@ func (c *call) ofTwo(op int, a, b operand) api.Val {
 // ofPointers tells an op of two pointers.
 func (c *call) ofPointers(op int, p, q api.Val) api.Val {
 	if op == api.EEq || op == api.ENe {
-		c.require(c.mayMatch(p, q))
+		c.Require(c.mayMatch(p, q))
 		return ofTruth((p == q) == (op == api.EEq))
 	}
-	c.require(c.mayOrder(p, q))
+	c.Require(c.mayOrder(p, q))
 	return number(reckon(op, api.TI64, p.N, q.N))
 }

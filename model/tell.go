@@ -17,7 +17,7 @@ const (
 
 // tell tells an expression's value.
 func (c *call) tell(e api.Expr) api.Val {
-	if !c.count(1) {
+	if !c.Count(1) {
 		return api.Val{}
 	}
 	switch e.Op {
@@ -51,7 +51,7 @@ func (c *call) operand(e api.Expr) operand {
 
 // place tells where an expression's element is; nothing is read there.
 func (c *call) place(e api.Expr) api.Val {
-	if !c.count(1) {
+	if !c.Count(1) {
 		return api.Val{}
 	}
 	return c.found(e)
@@ -83,18 +83,18 @@ func (c *call) content(e api.Expr) api.Val {
 }
 
 func (c *call) load(p api.Val) api.Val {
-	c.require(c.holds(p))
+	c.Require(c.holds(p))
 	return c.at(p)
 }
 
 func (c *call) store(p, v api.Val) {
-	c.require(c.holds(p))
+	c.Require(c.holds(p))
 	c.set(p, v)
 }
 
 func (c *call) move(p api.Val, by int64) api.Val {
 	q, ok := c.moved(p, by)
-	c.require(ok)
+	c.Require(ok)
 	return q
 }
 
@@ -150,12 +150,12 @@ func (c *call) stepped(e api.Expr) api.Val {
 func (c *call) called(e api.Expr) api.Val {
 	switch e.N {
 	case callPut:
-		c.put(c.tell(e.Kids[0]).N)
+		c.Put(c.tell(e.Kids[0]).N)
 		return api.Val{}
 	case callGet:
-		return number(c.get())
+		return number(c.Get())
 	case callExit:
-		c.end(api.OExit, c.tell(e.Kids[0]).N)
+		c.End(api.OExit, c.tell(e.Kids[0]).N)
 		return api.Val{}
 	}
 	f := &c.funcs[e.N]
