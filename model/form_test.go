@@ -11,20 +11,8 @@ import (
 	"gantlet/check"
 	"gantlet/model"
 	"gantlet/parse"
+	"gantlet/sample"
 )
-
-// samples are programs with all that there is of the language.
-func samples() []string {
-	return []string{
-		"int main(){return 1;}",
-		"int x=3;unsigned char a[3]={1,-2};void*v=0;int main(){x=a[1];v=v;*a+=3;put(x-a[0]);return sizeof(int*);}long*q[2]={0,0};",
-		"long f(int a,char*b,void**c,unsigned long d){while(a--){*b++=(char)d>>1;if(!*c)break;else continue;}return b-&b[-1];}int main(){char s[9];void*n;put(f(1,s,&n,sizeof(long)));}",
-		"int main(){int i;int i2=3;for(i=0;i<9;i++){int i=i2;{long i=i2;put(i++);}}switch(i&3){case 0:case -1:put(1);default:exit(get());}do;while(i--);}",
-		"void g(){again:put(get());if(get())goto again;else goto out;for(;;);out:return;}int main(){g();int*p=0;int**r=&p;int***t=&r;int y[2];***t=(*r=y)==0||t!=0?p[1]:-~7;return*p;}",
-		"int main(){unsigned int u=4294967295;short s=u<<2;u^=s|3;s=u%7;long l=s?u:s;l*=(unsigned short)l;put(l);return l>u;}int h(int main,int x){int h;return main+x;}",
-		"char c;int even(int n){if(n==0)return 1;return odd(n-1);}int odd(int n){return n?even(n-1):0;}int main(void){c=even(7);;{}put(c);return c;}",
-	}
-}
 
 // whole tells all of a unit; a nil list and an empty one are one there.
 func whole(u api.Unit) string { return fmt.Sprintf("%+v", u) }
@@ -78,7 +66,7 @@ func changes(v reflect.Value, try func()) {
 // tells of them.
 func TestForm(t *testing.T) {
 	right, wrong := 0, 0
-	for _, s := range samples() {
+	for _, s := range sample.Texts() {
 		u := checked(t, s)
 		before := whole(u)
 		changes(reflect.ValueOf(&u).Elem(), func() {
@@ -106,7 +94,7 @@ func TestForm(t *testing.T) {
 
 // TestUnchecked is of P5.1: what parse tells, and what is faulty, is not run.
 func TestUnchecked(t *testing.T) {
-	for _, s := range append(samples(), "", "int x;", "int main(){return x;}", "long main(){return 1;}", "int main(int a){return 1;}", "int main(){int x;int x;}", "int main(){goto a;}", "int f(){}") {
+	for _, s := range append(sample.Texts(), "", "int x;", "int main(){return x;}", "long main(){return 1;}", "int main(int a){return 1;}", "int main(){int x;int x;}", "int main(){goto a;}", "int f(){}") {
 		u, _ := parse.Parse(s)
 		if o, err := model.Run(u, nil, 9); err != api.ErrForm || show(o) != "none 0 [] 0/0" {
 			t.Errorf("%q: %s, %d", s, show(o), err)
@@ -137,7 +125,7 @@ func TestUnchecked(t *testing.T) {
 // TestStays is of R1 and R2: what is handed in stays, what is told is new memory, and the same each
 // time.
 func TestStays(t *testing.T) {
-	for _, s := range samples() {
+	for _, s := range sample.Texts() {
 		u := checked(t, s)
 		before := whole(u)
 		in := append(make([]int64, 0, 9), 3, 1, 4)
@@ -161,7 +149,7 @@ func TestStays(t *testing.T) {
 
 // TestMoved is of P5.1: where things stand in the text changes nothing, nor do blanks.
 func TestMoved(t *testing.T) {
-	for _, s := range samples() {
+	for _, s := range sample.Texts() {
 		u := checked(t, s)
 		want := show(ran(t, s, []int64{1, 2}, 900))
 		if got := show(ran(t, strings.ReplaceAll(strings.ReplaceAll(s, ";", " ;\n"), "(", "( "), []int64{1, 2}, 900)); got != want {

@@ -4,6 +4,7 @@ import (
 	"slices"
 
 	"gantlet/api"
+	"gantlet/checked"
 	"gantlet/course"
 )
 
@@ -18,21 +19,21 @@ type run struct {
 func begin(u api.Unit, in []int64, fuel int) *run {
 	r := &run{Course: course.Begin(in, fuel), memory: emptyMemory()}
 	for _, d := range u.Globals {
-		place := api.Val{Obj: r.add(elements(d.Type))}
+		place := api.Val{Obj: r.add(checked.Elements(d.Type))}
 		for i, n := range d.Init {
 			place.N = int64(i)
 			r.set(place, converted(d.Type, number(n)))
 		}
 	}
 	for _, f := range u.Funcs {
-		r.funcs = append(r.funcs, flat(f))
+		r.funcs = append(r.funcs, functionOf(f))
 	}
 	return r
 }
 
 // main calls the function main, whose return ends the program.
 func (r *run) main() {
-	i := slices.IndexFunc(r.funcs, func(f function) bool { return f.main })
+	i := slices.IndexFunc(r.funcs, func(f function) bool { return f.Main })
 	r.End(api.OExit, r.call(&r.funcs[i], nil).N)
 }
 

@@ -95,13 +95,3 @@ func isStuck(t *testing.T, decls, body string) {
 func same(a, b api.Outcome) bool {
 	return a.Kind == b.Kind && a.Code == b.Code && slices.Equal(a.Out, b.Out) && a.Steps == b.Steps && a.Deep == b.Deep
 }
-
-// mix tells numbers from 0 to below n, without any order that is to be seen, the same each time.
-func mix(seed uint64) func(n int) int {
-	return func(n int) int {
-		seed ^= seed << 13
-		seed ^= seed >> 7
-		seed ^= seed << 17
-		return int(seed >> 11 % uint64(n))
-	}
-}

@@ -8,6 +8,7 @@ import (
 
 	"gantlet/api"
 	"gantlet/model"
+	"gantlet/sample"
 )
 
 // TestSteps is of P5.1: how many steps all is, counted by hand.
@@ -181,7 +182,7 @@ func TestFuelThatMayBe(t *testing.T) {
 // TestMoreFuel is P5.2: what has ended is the same with more fuel, whatever its end is.
 func TestMoreFuel(t *testing.T) {
 	ends := map[int]bool{}
-	for _, s := range append(samples(), "int main(){int*p;put(1);return*p;}", "int main(){put(1);return main();}", "int main(){for(;;)put(1);}") {
+	for _, s := range append(sample.Texts(), "int main(){int*p;put(1);return*p;}", "int main(){put(1);return main();}", "int main(){for(;;)put(1);}") {
 		u := checked(t, s)
 		in := []int64{1, 1, 0, 6}
 		last, _ := model.Run(u, in, api.MaxFuel)

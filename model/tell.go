@@ -1,19 +1,15 @@
 package model
 
-import "gantlet/api"
+import (
+	"gantlet/api"
+	"gantlet/checked"
+)
 
 // operand is a value, and the type as which it counts.
 type operand struct {
 	t api.Type
 	v api.Val
 }
-
-// What calls of no function of the unit have as N.
-const (
-	callPut  = -1
-	callGet  = -2
-	callExit = -3
-)
 
 // tell tells an expression's value.
 func (c *call) tell(e api.Expr) api.Val {
@@ -46,7 +42,7 @@ func (c *call) tell(e api.Expr) api.Val {
 }
 
 func (c *call) operand(e api.Expr) operand {
-	return operand{counted(e), c.tell(e)}
+	return operand{checked.Counted(e), c.tell(e)}
 }
 
 // place tells where an expression's element is; nothing is read there.
@@ -149,19 +145,19 @@ func (c *call) stepped(e api.Expr) api.Val {
 
 func (c *call) called(e api.Expr) api.Val {
 	switch e.N {
-	case callPut:
+	case checked.CallPut:
 		c.Put(c.tell(e.Kids[0]).N)
 		return api.Val{}
-	case callGet:
+	case checked.CallGet:
 		return number(c.Get())
-	case callExit:
+	case checked.CallExit:
 		c.End(api.OExit, c.tell(e.Kids[0]).N)
 		return api.Val{}
 	}
 	f := &c.funcs[e.N]
 	var args []api.Val
 	for i, k := range e.Kids {
-		args = append(args, converted(f.params[i], c.tell(k)))
+		args = append(args, converted(f.Params[i], c.tell(k)))
 	}
 	return c.call(f, args)
 }

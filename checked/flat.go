@@ -1,4 +1,4 @@
-package model
+package checked
 
 import "gantlet/api"
 
@@ -11,20 +11,21 @@ type inside struct {
 
 // flattener brings a function's statements into one row.
 type flattener struct {
-	function
+	Row
 	held int // how many statements have a number
 }
 
-func flat(f api.Func) function {
-	w := flattener{function: function{main: f.Name == "main", ret: f.Ret, marks: map[mark]int{}}}
+// RowOf tells a function of a checked unit as a row.
+func RowOf(f api.Func) Row {
+	w := flattener{Row: Row{Main: f.Name == "main", Ret: f.Ret, Marks: map[Mark]int{}}}
 	for _, d := range f.Params {
-		w.params = append(w.params, d.Type)
+		w.Params = append(w.Params, d.Type)
 	}
 	for _, d := range f.Locals {
-		w.locals = append(w.locals, elements(d.Type))
+		w.Locals = append(w.Locals, d.Type)
 	}
 	w.stmts(f.Body, inside{})
-	return w.function
+	return w.Row
 }
 
 func (w *flattener) stmts(l []api.Stmt, in inside) {
@@ -36,26 +37,26 @@ func (w *flattener) stmts(l []api.Stmt, in inside) {
 func (w *flattener) stmt(s api.Stmt, in inside) {
 	switch s.Op {
 	case api.SCase:
-		w.set(mark{what: atCase, of: in.choice, value: fit(in.kind, s.N)})
+		w.set(Mark{What: AtCase, Of: in.choice, Value: Fit(in.kind, s.N)})
 	case api.SDefault:
-		w.set(mark{what: atDefault, of: in.choice})
+		w.set(Mark{What: AtDefault, Of: in.choice})
 	case api.SLabel:
-		w.set(mark{what: atLabel, name: s.Name})
+		w.set(Mark{What: AtLabel, Name: s.Name})
 	}
-	w.add(move{does: doBegin})
+	w.add(Move{Does: DoBegin})
 	switch s.Op {
 	case api.SExpr:
-		w.add(move{does: doTell, expr: s.Expr[0]})
+		w.add(Move{Does: DoTell, Expr: s.Expr[0]})
 	case api.SDecl:
-		w.add(move{does: doMake, expr: only(s.Expr), local: int(s.N), t: s.Type})
+		w.add(Move{Does: DoMake, Expr: only(s.Expr), Local: int(s.N), Type: s.Type})
 	case api.SReturn:
-		w.add(move{does: doReturn, expr: only(s.Expr)})
+		w.add(Move{Does: DoReturn, Expr: only(s.Expr)})
 	case api.SBreak:
-		w.jump(mark{what: atEnd, of: in.out})
+		w.jump(Mark{What: AtEnd, Of: in.out})
 	case api.SContinue:
-		w.jump(mark{what: atNext, of: in.loop})
+		w.jump(Mark{What: AtNext, Of: in.loop})
 	case api.SGoto:
-		w.jump(mark{what: atLabel, name: s.Name})
+		w.jump(Mark{What: AtLabel, Name: s.Name})
 	case api.SBlock:
 		w.stmts(s.Body, in)
 	case api.SIf, api.SWhile, api.SDo, api.SFor, api.SSwitch:
@@ -72,8 +73,8 @@ func only(l []api.Expr) api.Expr {
 	return l[0]
 }
 
-func (w *flattener) jump(to mark) {
-	w.add(move{does: doJump, to: to})
+func (w *flattener) jump(to Mark) {
+	w.add(Move{Does: DoJump, To: to})
 }
 
 // holding brings a statement of a number, and all that it holds, into the row.
@@ -82,54 +83,54 @@ func (w *flattener) holding(s api.Stmt, in inside, n int) {
 	case api.SIf:
 		w.either(s, in, n)
 	case api.SSwitch:
-		in.out, in.choice, in.kind = n, n, promoted(counted(s.Expr[0]))
-		w.add(move{does: doChoose, expr: s.Expr[0], to: mark{what: atEnd, of: n}})
+		in.out, in.choice, in.kind = n, n, Promoted(Counted(s.Expr[0]))
+		w.add(Move{Does: DoChoose, Expr: s.Expr[0], To: Mark{What: AtEnd, Of: n}})
 		w.stmts(s.Body, in)
 	default:
 		in.loop, in.out = n, n
 		w.loop(s, in, n)
 	}
-	w.set(mark{what: atEnd, of: n})
+	w.set(Mark{What: AtEnd, Of: n})
 }
 
 func (w *flattener) either(s api.Stmt, in inside, n int) {
-	w.add(move{does: doUnless, expr: s.Expr[0], to: mark{what: atElse, of: n}})
+	w.add(Move{Does: DoUnless, Expr: s.Expr[0], To: Mark{What: AtElse, Of: n}})
 	w.stmt(s.Body[0], in)
 	others := s.Body[1:]
 	if len(others) > 0 {
-		w.jump(mark{what: atEnd, of: n})
+		w.jump(Mark{What: AtEnd, Of: n})
 	}
-	w.set(mark{what: atElse, of: n})
+	w.set(Mark{What: AtElse, Of: n})
 	w.stmts(others, in)
 }
 
 func (w *flattener) loop(s api.Stmt, in inside, n int) {
-	body, next, end := mark{what: atBody, of: n}, mark{what: atNext, of: n}, mark{what: atEnd, of: n}
+	body, next, end := Mark{What: AtBody, Of: n}, Mark{What: AtNext, Of: n}, Mark{What: AtEnd, Of: n}
 	switch s.Op {
 	case api.SWhile:
 		w.set(next)
-		w.add(move{does: doUnless, expr: s.Expr[0], to: end})
+		w.add(Move{Does: DoUnless, Expr: s.Expr[0], To: end})
 		w.stmts(s.Body, in)
 		w.jump(next)
 	case api.SDo:
 		w.set(body)
 		w.stmts(s.Body, in)
 		w.set(next)
-		w.add(move{does: doIf, expr: s.Expr[0], to: body})
+		w.add(Move{Does: DoIf, Expr: s.Expr[0], To: body})
 	case api.SFor:
-		w.perhaps(move{does: doTell, expr: s.Expr[0]})
+		w.perhaps(Move{Does: DoTell, Expr: s.Expr[0]})
 		w.set(body)
-		w.perhaps(move{does: doUnless, expr: s.Expr[1], to: end})
+		w.perhaps(Move{Does: DoUnless, Expr: s.Expr[1], To: end})
 		w.stmts(s.Body, in)
 		w.set(next)
-		w.perhaps(move{does: doTell, expr: s.Expr[2]})
+		w.perhaps(Move{Does: DoTell, Expr: s.Expr[2]})
 		w.jump(body)
 	}
 }
 
 // perhaps adds a move of an expression, if that was not left out.
-func (w *flattener) perhaps(m move) {
-	if m.expr.Op != api.ENone {
+func (w *flattener) perhaps(m Move) {
+	if m.Expr.Op != api.ENone {
 		w.add(m)
 	}
 }
