@@ -57,11 +57,15 @@ func (f *forest) label(n node) label {
 	return l
 }
 
-// take takes a tree up, and tells its label.
+// take takes a tree up, and tells its label. An RCon comes to be the second kid, where kids may be turned:
+// there it is sought.
 func (f *forest) take(t api.Tree) label {
 	n := node{op: t.Op, n: t.N}
 	for i, k := range t.Kids {
 		n.kids[i] = f.take(k)
+	}
+	if _, isFirst := f.constant(n.kids[0]); isFirst && symmetric.has(n.op) {
+		n = n.turned()
 	}
 	return f.label(n)
 }

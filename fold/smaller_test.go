@@ -51,6 +51,11 @@ func TestSmaller(t *testing.T) {
 		{"sub(add(glo(1), con(12)), add(glo(1), con(4)))", "con(8)"},
 		{"sub(add(loc(1), con(12)), add(tmp(0), con(4)))", "sub(add(loc(1), con(12)), add(tmp(0), con(4)))"},
 		{"ext32(sub(add(tmp(0), con(12)), add(tmp(1), con(4))))", "ext32(add(sub(tmp(0), tmp(1)), con(8)))"},
+		// a number comes second, where that tells the same
+		{"add(con(4), glo(0))", "add(glo(0), con(4))"},
+		{"load32(add(con(4), glo(1)))", "load32(add(glo(1), con(4)))"},
+		{"eq(con(3), and(con(7), tmp(0)))", "eq(and(tmp(0), con(7)), con(3))"},
+		{"sub(con(4), tmp(0))", "sub(con(4), tmp(0))"},
 		// products, quotients, rests
 		{"mul(tmp(0), con(0))", "con(0)"},
 		{"mul(con(1), tmp(0))", "tmp(0)"},
@@ -58,6 +63,7 @@ func TestSmaller(t *testing.T) {
 		{"mul(tmp(0), con(8))", "shl(tmp(0), con(3))"},
 		{"mul(mul(tmp(0), con(3)), con(5))", "mul(tmp(0), con(15))"},
 		{"mul(shl(tmp(0), con(2)), con(5))", "mul(tmp(0), con(20))"},
+		{"mul(mul(con(3), tmp(0)), con(5))", "mul(tmp(0), con(15))"},
 		{"div(tmp(0), con(0))", "con(-1)"},
 		{"div(tmp(0), con(1))", "tmp(0)"},
 		{"div(tmp(0), con(-1))", "sub(con(0), tmp(0))"},

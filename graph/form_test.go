@@ -9,6 +9,7 @@ import (
 
 	"gantlet/api"
 	"gantlet/graph"
+	"gantlet/sample"
 	"gantlet/tree"
 )
 
@@ -472,7 +473,7 @@ func mayBe(p api.Prog) bool {
 func TestChanged(t *testing.T) {
 	right, wrong, tried := 0, 0, 0
 	below := mix(5550123)
-	l := []api.Prog{samples()[0], samples()[4], recursive(), made(below), made(below)}
+	l := []api.Prog{samples()[0], samples()[4], recursive(), sample.Graph(below), sample.Graph(below)}
 	for i, p := range l {
 		if !mayBe(p) {
 			t.Fatal("a sample may not be")

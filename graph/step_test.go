@@ -8,6 +8,7 @@ import (
 
 	"gantlet/api"
 	"gantlet/graph"
+	"gantlet/sample"
 )
 
 // TestSteps is of P7.1: how a program ends, and how many steps that is, counted by hand.
@@ -286,7 +287,7 @@ func samples() []api.Prog {
 	}
 	below := mix(424242)
 	for range 40 {
-		l = append(l, made(below))
+		l = append(l, sample.Graph(below))
 	}
 	return slices.Clip(l)
 }

@@ -1,10 +1,12 @@
 package sample_test
 
 import (
+	"reflect"
 	"testing"
 
 	"gantlet/api"
 	"gantlet/check"
+	"gantlet/graph"
 	"gantlet/model"
 	"gantlet/parse"
 	"gantlet/sample"
@@ -42,6 +44,38 @@ func TestMade(t *testing.T) {
 // TestTyped: programs that are hardly ever stuck.
 func TestTyped(t *testing.T) {
 	if kinds := ended(t, sample.Typed); kinds[api.OExit] < 150 || kinds[api.OFuel] < 30 || kinds[api.OOver] < 15 || kinds[api.OStuck] > 5 || kinds[api.ONone] > 2 {
+		t.Errorf("%v", kinds)
+	}
+}
+
+// graphs tells how often programs of the middle language end how, and holds that they may be.
+func graphs(t *testing.T, of func(below func(int) int) api.Prog) map[int]int {
+	t.Helper()
+	kinds := map[int]int{}
+	for seed := uint64(1); seed < 1000; seed++ {
+		p := of(sample.Mix(seed * 0x9e3779b97f4a7c15))
+		o, err := graph.Run(p, []int64{1, 2, 3, 0, 1}, 3000)
+		if err != api.OK {
+			t.Fatalf("%d may not be", seed)
+		}
+		if !reflect.DeepEqual(of(sample.Mix(seed*0x9e3779b97f4a7c15)), p) {
+			t.Errorf("%d tells two programs", seed)
+		}
+		kinds[o.Kind]++
+	}
+	return kinds
+}
+
+// TestGraph: programs of the middle language that end in all ways.
+func TestGraph(t *testing.T) {
+	if kinds := graphs(t, sample.Graph); kinds[api.OExit] < 300 || kinds[api.OFuel] < 50 || kinds[api.OStuck] < 200 || kinds[api.OOver] < 20 {
+		t.Errorf("%v", kinds)
+	}
+}
+
+// TestTangle: programs of the middle language that are hardly ever stuck.
+func TestTangle(t *testing.T) {
+	if kinds := graphs(t, sample.Tangle); kinds[api.OExit] < 700 || kinds[api.OFuel] < 2 || kinds[api.OStuck] > 50 || kinds[api.OOver] < 50 {
 		t.Errorf("%v", kinds)
 	}
 }
